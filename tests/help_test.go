@@ -1,0 +1,85 @@
+package tests
+
+import (
+	"slices"
+	"testing"
+)
+
+// sameRows reports whether two lists of rows are the same.
+func sameRows(a, b [][]int) bool {
+	return slices.EqualFunc(a, b, slices.Equal[[]int])
+}
+
+// listsOf returns all lists of n of the numbers, in the order of the first place, then of the second one, and so on.
+func listsOf(n int, numbers ...int) [][]int {
+	lists := [][]int{nil}
+	for range n {
+		var longer [][]int
+		for _, l := range lists {
+			for _, x := range numbers {
+				longer = append(longer, append(slices.Clone(l), x))
+			}
+		}
+		lists = longer
+	}
+	return lists
+}
+
+// upTo returns the numbers 0..top.
+func upTo(top int) []int {
+	var numbers []int
+	for x := range top + 1 {
+		numbers = append(numbers, x)
+	}
+	return numbers
+}
+
+// with returns a copy of a list with another number at a place.
+func with(list []int, i, x int) []int {
+	c := slices.Clone(list)
+	c[i] = x
+	return c
+}
+
+// roomy returns a copy of a list with room behind it that is filled, so that a write into the room is seen.
+func roomy(list []int) []int {
+	r := append(slices.Clone(list), 77, 78, 79)
+	return r[:len(list)]
+}
+
+// roomyIsKept reports whether a list made by roomy, and the room behind it, are as they were.
+func roomyIsKept(r, list []int) bool {
+	return slices.Equal(r[:len(list)+3], append(slices.Clone(list), 77, 78, 79))
+}
+
+// scribble overwrites a list and all the room behind it.
+func scribble(list []int) {
+	list = list[:cap(list)]
+	for i := range list {
+		list[i] = -99
+	}
+}
+
+// checkRowsApart fails if two rows share memory, room behind them included.
+func checkRowsApart(t *testing.T, rows [][]int) {
+	t.Helper()
+	was := make([][]int, len(rows))
+	for i, r := range rows {
+		was[i] = slices.Clone(r)
+	}
+	for i := range rows {
+		scribble(rows[i])
+		for j := i + 1; j < len(rows); j++ {
+			if !slices.Equal(rows[j], was[j]) {
+				t.Fatalf("rows %d and %d share memory", i, j)
+			}
+		}
+	}
+	for i := range rows {
+		for j, x := range rows[i] {
+			if x != -99 {
+				t.Fatalf("row %d has %d at %d after it was overwritten", i, x, j)
+			}
+		}
+	}
+}
