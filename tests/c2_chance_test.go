@@ -648,6 +648,43 @@ func TestP16TheBestIsAtLeastOnePrice(t *testing.T) {
 	}
 }
 
+func TestP81MoreBiddersBringMore(t *testing.T) {
+	for _, w := range someWeights() {
+		ways := allWays(w, 1)
+		for n := 1; n < impl.MaxFew; n++ {
+			for _, r := range allEdges {
+				few, more := impl.EdgeRevenue(w, n, r), impl.EdgeRevenue(w, n+1, r)
+				if few < 0 || more < few*ways {
+					t.Fatalf("EdgeRevenue(%v, %d, %d) = %d, but of one bidder fewer %d, in %d ways of one", w, n+1, r, more, few, ways)
+				}
+			}
+			few, more := bestRevenue(t, w, n), bestRevenue(t, w, n+1)
+			if more.Cmp(few.Mul(few, big.NewRat(int64(ways), 1))) < 0 {
+				t.Fatalf("BestRevenue(%v, %d) = %v, but of one bidder fewer, times %d ways of one, %v", w, n+1, more, ways, few)
+			}
+		}
+	}
+}
+
+func TestP82OneBidderMoreIsBetterThanTheBestPrice(t *testing.T) {
+	tried := 0
+	for _, w := range someWeights() {
+		if !impl.IsRegular(w) {
+			continue
+		}
+		tried++
+		for n := 1; n < impl.MaxFew; n++ {
+			more, best := big.NewRat(int64(impl.EdgeRevenue(w, n+1, 0)), 1), bestRevenue(t, w, n)
+			if more.Cmp(best.Mul(best, big.NewRat(int64(allWays(w, 1)), 1))) < 0 {
+				t.Fatalf("EdgeRevenue(%v, %d, 0) = %v, but BestRevenue of one bidder fewer, times the ways of one, %v", w, n+1, more, best)
+			}
+		}
+	}
+	if tried == 0 {
+		t.Error("no weights were regular")
+	}
+}
+
 func TestP83TheBestReserveIsTheBestPrice(t *testing.T) {
 	tried := 0
 	for _, w := range someWeights() {

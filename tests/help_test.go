@@ -83,3 +83,23 @@ func checkRowsApart(t *testing.T, rows [][]int) {
 		}
 	}
 }
+
+// roomyRows returns a copy of rows with room behind each one, and behind all, that is filled.
+func roomyRows(rows [][]int) [][]int {
+	var r [][]int
+	for _, row := range rows {
+		r = append(r, roomy(row))
+	}
+	r = append(r, []int{87}, []int{88, 88})
+	return r[:len(rows)]
+}
+
+// roomyRowsAreKept reports whether rows made by roomyRows, and the room behind them, are as they were.
+func roomyRowsAreKept(r, rows [][]int) bool {
+	for i, row := range rows {
+		if len(r[i]) != len(row) || !roomyIsKept(r[i], row) {
+			return false
+		}
+	}
+	return sameRows(r[len(rows):len(rows)+2], [][]int{{87}, {88, 88}})
+}
