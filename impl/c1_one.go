@@ -22,15 +22,7 @@ type sale func(bids []int, at int, reserve int) []int
 
 // ValidBids reports whether numbers are bids.
 func ValidBids(bids []int) bool {
-	if len(bids) < 1 || len(bids) > MaxBidders {
-		return false
-	}
-	for _, b := range bids {
-		if !isBid(b) {
-			return false
-		}
-	}
-	return true
+	return areAll(bids, MaxBidders, isBid)
 }
 
 // SaleBy returns who gets the thing, and what all pay.
@@ -83,7 +75,7 @@ func IsTrue(kind string, n int, top int) bool {
 	if pays == nil || n < 1 || n > MaxFew || !isTop(top) {
 		return false
 	}
-	for values := range allBids(n, top) {
+	for values := range allLists(n, top) {
 		// One bid above the top, since a bidder may have to go beyond it to have the thing.
 		if !allRest(top+1, pays, values, values) {
 			return false
@@ -99,12 +91,25 @@ func RestsOf(kind string, values []int, top int) [][]int {
 		return nil
 	}
 	var rests [][]int
-	for bids := range allBids(len(values), top) {
+	for bids := range allLists(len(values), top) {
 		if allRest(top, pays, bids, values) {
 			rests = append(rests, bids)
 		}
 	}
 	return rests
+}
+
+// areAll reports whether there are elements, at most so many, and all of them are what is told.
+func areAll[T any](list []T, most int, is func(T) bool) bool {
+	if len(list) < 1 || len(list) > most {
+		return false
+	}
+	for _, x := range list {
+		if !is(x) {
+			return false
+		}
+	}
+	return true
 }
 
 // isBid reports whether a number is in the range of bids, which is that of reserves and values, too.
@@ -212,24 +217,24 @@ func allRest(top int, pays sale, bids []int, values []int) bool {
 	return true
 }
 
-// allBids goes through all bids of n bidders in 0..top, in the order of the first bid, then of the second one, and so on.
+// allLists goes through all lists of n numbers in 0..top, in the order of the first number, then of the second one, and so on.
 // Each slice is new, so that it may be kept.
-func allBids(n int, top int) iter.Seq[[]int] {
+func allLists(n int, top int) iter.Seq[[]int] {
 	return func(yield func([]int) bool) {
-		bids := make([]int, n)
-		for yield(slices.Clone(bids)) && nextBids(bids, top) {
+		list := make([]int, n)
+		for yield(slices.Clone(list)) && nextList(list, top) {
 		}
 	}
 }
 
-// nextBids turns bids in 0..top into those that follow, and reports whether there are any.
-func nextBids(bids []int, top int) bool {
-	for i := len(bids) - 1; i >= 0; i-- {
-		if bids[i] < top {
-			bids[i]++
+// nextList turns numbers in 0..top into those that follow, and reports whether there are any.
+func nextList(list []int, top int) bool {
+	for i := len(list) - 1; i >= 0; i-- {
+		if list[i] < top {
+			list[i]++
 			return true
 		}
-		bids[i] = 0
+		list[i] = 0
 	}
 	return false
 }
