@@ -478,9 +478,11 @@ func TestP79OneThingIsABundle(t *testing.T) {
 	}
 }
 
-func TestP86MoreBiddersPayMoreWhereThingsMayBeMoved(t *testing.T) {
+// checkMorePayMore fails if one of the bundles brings in more without the last bidder, or no last bidder brings in more.
+func checkMorePayMore(t *testing.T, bundles [][][]int) {
+	t.Helper()
 	more := 0
-	for _, tables := range movableBundles() {
+	for _, tables := range bundles {
 		paid, _ := impl.BroughtIn(tables)
 		fewer := 0
 		// No bidders are no tables: nothing is brought in by them.
@@ -497,6 +499,10 @@ func TestP86MoreBiddersPayMoreWhereThingsMayBeMoved(t *testing.T) {
 	if more == 0 {
 		t.Error("no last bidder brought in more")
 	}
+}
+
+func TestP86MoreBiddersPayMoreWhereThingsMayBeMoved(t *testing.T) {
+	checkMorePayMore(t, movableBundles())
 }
 
 // callPivots calls all functions of the chapter.
