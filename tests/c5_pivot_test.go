@@ -542,25 +542,11 @@ func TestPivotsOfTablesInTheSameMemory(t *testing.T) {
 }
 
 func TestPivotsShareNoMemory(t *testing.T) {
-	lists := []struct {
-		name string
-		of   func(tables [][]int) []int
-		want func(tables [][]int) []int
-	}{
+	lists := []listMaker{
 		{"PivotPays", impl.PivotPays, wantPivotPays},
 		{"AddsOf", impl.AddsOf, wantAddsOf},
 	}
 	for _, tables := range append(crowdsOf(2, fewTables()), [][]int{noughts}, [][]int{each30}, [][]int{abFor10, a6xorB3, b6orC2}, [][]int{each5, each5, each5, each5}) {
-		r := roomyRows(tables)
-		for _, one := range lists {
-			list := one.of(r)
-			for _, other := range lists {
-				kept := other.of(r)
-				scribble(list)
-				if !roomyRowsAreKept(r, tables) || !slices.Equal(kept, other.want(tables)) || !slices.Equal(other.of(r), other.want(tables)) {
-					t.Fatalf("the result of %s of %v shares memory with it, or with that of %s", one.name, tables, other.name)
-				}
-			}
-		}
+		checkListsApart(t, lists, tables)
 	}
 }

@@ -103,3 +103,25 @@ func roomyRowsAreKept(r, rows [][]int) bool {
 	}
 	return sameRows(r[len(rows):len(rows)+2], [][]int{{87}, {88, 88}})
 }
+
+// A listMaker makes a list of rows: what a function of the program returns, and what the document says of it.
+type listMaker struct {
+	name     string
+	of, want func(rows [][]int) []int
+}
+
+// checkListsApart fails if a list that one of the makers makes of the rows shares memory with these, or with another list made of them.
+func checkListsApart(t *testing.T, makers []listMaker, rows [][]int) {
+	t.Helper()
+	r := roomyRows(rows)
+	for _, one := range makers {
+		list := one.of(r)
+		for _, other := range makers {
+			kept := other.of(r)
+			scribble(list)
+			if !roomyRowsAreKept(r, rows) || !slices.Equal(kept, other.want(rows)) || !slices.Equal(other.of(r), other.want(rows)) {
+				t.Fatalf("the result of %s of %v shares memory with it, or with that of %s", one.name, rows, other.name)
+			}
+		}
+	}
+}
