@@ -308,9 +308,8 @@ func wrongTexts() []string {
 	}
 }
 
-// bentTexts are all texts that a text becomes by one byte less, and by one of some bytes more, or in place of another one.
-func bentTexts(s string) []string {
-	const bytes = " :abcdorx0123-+"
+// bentTexts are all texts that a text becomes by one byte less, and by one of the bytes more, or in place of another one.
+func bentTexts(s, bytes string) []string {
 	bent := []string{s}
 	for at := range len(s) + 1 {
 		if at < len(s) {
@@ -501,7 +500,7 @@ func TestTableOfBentTexts(t *testing.T) {
 	}
 	for _, s := range append([]string{"a:3", "ab:12", "abc:30", "a:3 xor bc:4", "a:3 or b:14 or c:13", "ac:20 or b:10", "a:1 xor b:2 xor c:3 xor ab:4 xor ac:5 xor bc:6 xor abc:7"}, wrongTexts()...) {
 		if len(s) < 100 {
-			for _, bent := range bentTexts(s) {
+			for _, bent := range bentTexts(s, " :abcdorx0123-+") {
 				check(bent)
 			}
 		}
